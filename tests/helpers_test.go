@@ -1,0 +1,217 @@
+package tests
+
+import (
+	"iter"
+	"math"
+	"slices"
+	"testing"
+
+	"loop.example/firingnets/impl"
+)
+
+// netsOf tells all nets of so many nodes, found without the program: each pair of nodes is wired or not.
+func netsOf(nodes int) iter.Seq[[]int] {
+	return func(yield func([]int) bool) {
+		pairs := nodes * (nodes - 1) / 2
+		for wired := range 1 << pairs {
+			if !yield(netOfPairs(nodes, wired)) {
+				return
+			}
+		}
+	}
+}
+
+func netOfPairs(nodes, wired int) []int {
+	net := make([]int, nodes)
+	for a := range nodes {
+		for b := range a {
+			if wired&1 == 1 {
+				net[a] += 1 << b
+				net[b] += 1 << a
+			}
+			wired >>= 1
+		}
+	}
+	return net
+}
+
+// everyNet tells all nets that there are, from one node to MaxNodes.
+func everyNet() iter.Seq[[]int] {
+	return func(yield func([]int) bool) {
+		for nodes := 1; nodes <= impl.MaxNodes; nodes++ {
+			for net := range netsOf(nodes) {
+				if !yield(net) {
+					return
+				}
+			}
+		}
+	}
+}
+
+// ordersOf tells all orders of so many numbers.
+func ordersOf(numbers int) [][]int {
+	if numbers == 0 {
+		return [][]int{{}}
+	}
+	var orders [][]int
+	for _, shorter := range ordersOf(numbers - 1) {
+		for place := range numbers {
+			orders = append(orders, slices.Insert(slices.Clone(shorter), place, numbers-1))
+		}
+	}
+	return orders
+}
+
+func inSet(set, node int) bool {
+	return set&(1<<node) != 0
+}
+
+func nodesIn(set int) int {
+	count := 0
+	for node := range impl.MaxNodes {
+		if inSet(set, node) {
+			count++
+		}
+	}
+	return count
+}
+
+// farTable has the distances of all pairs of nodes, -1 for none, by another way than the program's: by way of each node in turn.
+func farTable(net []int) [][]int {
+	far := make([][]int, len(net))
+	for a := range net {
+		far[a] = make([]int, len(net))
+		for b := range net {
+			if far[a][b] = -1; inSet(net[a], b) {
+				far[a][b] = 1
+			}
+		}
+		far[a][a] = 0
+	}
+	for by := range net {
+		for a := range net {
+			for b := range net {
+				way := far[a][by] + far[by][b]
+				if far[a][by] >= 0 && far[by][b] >= 0 && (far[a][b] < 0 || way < far[a][b]) {
+					far[a][b] = way
+				}
+			}
+		}
+	}
+	return far
+}
+
+// distancesBy has the least distances from a set, by farTable.
+func distancesBy(far [][]int, set int) []int {
+	row := make([]int, len(far))
+	for node := range row {
+		row[node] = -1
+		for from := range far {
+			way := far[from][node]
+			if inSet(set, from) && way >= 0 && (row[node] < 0 || way < row[node]) {
+				row[node] = way
+			}
+		}
+	}
+	return row
+}
+
+// partsBy has the least node that is come to from each, by farTable.
+func partsBy(far [][]int) []int {
+	row := make([]int, len(far))
+	for node := range row {
+		row[node] = slices.IndexFunc(far[node], func(way int) bool { return way >= 0 })
+	}
+	return row
+}
+
+// countParts has the number of parts of a net, by farTable.
+func countParts(far [][]int) int {
+	count := 0
+	for node, least := range partsBy(far) {
+		if node == least {
+			count++
+		}
+	}
+	return count
+}
+
+// wrongNets are none: of no nodes, of too many, and with neighbours that may not be.
+func wrongNets() map[string][]int {
+	return map[string][]int{
+		"nil":                           nil,
+		"no nodes":                      {},
+		"seven nodes":                   {0, 0, 0, 0, 0, 0, 0},
+		"seven nodes in a path":         {2, 5, 10, 20, 40, 80, 32},
+		"very many nodes":               make([]int, 1000),
+		"one node, negative":            {-1},
+		"negative":                      {2, 1, -1},
+		"least number":                  {math.MinInt},
+		"negative for a pair":           {-2, 1},
+		"greatest number":               {0, math.MaxInt},
+		"one node, its own neighbour":   {1},
+		"its own neighbour":             {2, 1, 4},
+		"its own neighbour and another": {3, 1},
+		"one way up":                    {2, 0},
+		"one way down":                  {0, 1},
+		"one way round three":           {2, 4, 1},
+		"one node beyond":               {2},
+		"next node beyond the net":      {4, 0},
+		"node beyond, beside a wire":    {6, 1},
+		"node far beyond":               {1 << 40, 0},
+		"six nodes, the seventh beyond": {64, 0, 0, 0, 0, 0},
+		"six nodes, one way at the end": {0, 0, 0, 0, 0, 1},
+	}
+}
+
+// wrongNumbers are below 0, or beyond each net.
+func wrongNumbers() []int {
+	return []int{-1, -2, -64, math.MinInt, 1 << impl.MaxNodes, 1 << 32, 1 << 62, math.MaxInt}
+}
+
+func wantRow(t *testing.T, what string, got, want []int) {
+	t.Helper()
+	if !slices.Equal(got, want) {
+		t.Fatalf("%s: %v, not %v", what, got, want)
+	}
+}
+
+func wantNumber(t *testing.T, what string, got, want int) {
+	t.Helper()
+	if got != want {
+		t.Fatalf("%s: %d, not %d", what, got, want)
+	}
+}
+
+// wantNone is for what stands beside false: a row without numbers.
+func wantNone(t *testing.T, what string, row []int, ok bool) {
+	t.Helper()
+	if ok || len(row) != 0 {
+		t.Fatalf("%s: %v, %v", what, row, ok)
+	}
+}
+
+const spareMark = 77
+
+// withSpare has the same numbers with spare capacity behind them, which is marked.
+func withSpare(row []int) []int {
+	long := append(slices.Clone(row), spareMark, spareMark, spareMark, spareMark, spareMark, spareMark, spareMark)
+	return long[:len(row)]
+}
+
+// wantUnwritten reports a row of withSpare of which a number, or the spare capacity, is not as it was.
+func wantUnwritten(t *testing.T, what string, row, before []int) {
+	t.Helper()
+	wantRow(t, what+" is written to", row, before)
+	for _, number := range row[len(row):cap(row)][:7] {
+		wantNumber(t, what+" is written to behind its end", number, spareMark)
+	}
+}
+
+// overwrite writes to all that a row has, its spare capacity too.
+func overwrite(row []int) {
+	row = row[:cap(row)]
+	for place := range row {
+		row[place] = -9
+	}
+}
