@@ -1,6 +1,7 @@
 package tests
 
 import (
+	"fmt"
 	"iter"
 	"math"
 	"slices"
@@ -60,6 +61,41 @@ func ordersOf(numbers int) [][]int {
 		}
 	}
 	return orders
+}
+
+// statesOf tells all states of so many nodes and kinds, found without the program.
+func statesOf(nodes, kinds int) iter.Seq[[]int] {
+	return func(yield func([]int) bool) {
+		row := make([]int, nodes)
+		more := true
+		everyRow(row, 0, 0, kinds-1, func() {
+			more = more && yield(slices.Clone(row))
+		})
+	}
+}
+
+// everyState tells all states that there are, each behind its number of kinds.
+func everyState() iter.Seq2[int, []int] {
+	return func(yield func(int, []int) bool) {
+		for kinds := impl.LeastKinds; kinds <= impl.MaxKinds; kinds++ {
+			for nodes := 1; nodes <= impl.MaxNodes; nodes++ {
+				for state := range statesOf(nodes, kinds) {
+					if !yield(kinds, state) {
+						return
+					}
+				}
+			}
+		}
+	}
+}
+
+// power has a number times itself, so often.
+func power(number, often int) int {
+	all := 1
+	for range often {
+		all *= number
+	}
+	return all
 }
 
 func inSet(set, node int) bool {
@@ -162,6 +198,52 @@ func wrongNets() map[string][]int {
 		"six nodes, the seventh beyond": {64, 0, 0, 0, 0, 0},
 		"six nodes, one way at the end": {0, 0, 0, 0, 0, 1},
 	}
+}
+
+// wrongKinds are no numbers of kinds: fewer than LeastKinds, or more than MaxKinds.
+func wrongKinds() []int {
+	return []int{impl.LeastKinds - 1, 1, 0, -1, -3, -5, math.MinInt, impl.MaxKinds + 1, 7, 60, 1 << 32, math.MaxInt}
+}
+
+// kindedState is a row beside the number of kinds that it is read with.
+type kindedState struct {
+	kinds int
+	state []int
+}
+
+// wrongStates are none: of too few or too many kinds or nodes, and with kinds that may not be.
+func wrongStates() map[string]kindedState {
+	wrong := map[string]kindedState{
+		"the next kind behind three":   {3, []int{3}},
+		"the next kind behind four":    {4, []int{0, 4}},
+		"the next kind behind five":    {5, []int{0, 1, 5}},
+		"the next kind, at first":      {3, []int{3, 0, 1}},
+		"a kind below 0":               {3, []int{-1}},
+		"a kind below 0 at the end":    {5, []int{0, 0, 0, 0, 0, -1}},
+		"a kind below 0 at first":      {4, []int{-2, 0, 0}},
+		"the least number for a kind":  {3, []int{0, math.MinInt}},
+		"the greatest one for a kind":  {5, []int{math.MaxInt, 0}},
+		"a kind that is 0 in 32 bits":  {3, []int{1 << 32}},
+		"more nodes, not all at rest":  {5, []int{0, 1, 2, 3, 4, 0, 1}},
+		"a kind of more kinds, at six": {4, []int{0, 1, 2, 3, 3, 4}},
+	}
+	for _, kinds := range []int{3, 4, 5} {
+		wrong[fmt.Sprint("nil, of kinds ", kinds)] = kindedState{kinds, nil}
+		wrong[fmt.Sprint("no nodes, of kinds ", kinds)] = kindedState{kinds, []int{}}
+		wrong[fmt.Sprint("one node too many, of kinds ", kinds)] = kindedState{kinds, make([]int, impl.MaxNodes+1)}
+		wrong[fmt.Sprint("very many nodes, of kinds ", kinds)] = kindedState{kinds, make([]int, 1000)}
+	}
+	for _, kinds := range wrongKinds() {
+		wrong[fmt.Sprint("one node, of kinds ", kinds)] = kindedState{kinds, []int{0}}
+		wrong[fmt.Sprint("most nodes, of kinds ", kinds)] = kindedState{kinds, make([]int, impl.MaxNodes)}
+		wrong[fmt.Sprint("no nodes, of kinds ", kinds)] = kindedState{kinds, nil}
+	}
+	return wrong
+}
+
+// wrongNodes are no numbers of nodes.
+func wrongNodes() []int {
+	return append(wrongNumbers(), 0, impl.MaxNodes+1, 63, 65)
 }
 
 // wrongNumbers are below 0, or beyond each net.

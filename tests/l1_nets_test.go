@@ -161,7 +161,6 @@ func TestNeighboursAreOneStepApart(t *testing.T) {
 }
 
 func wantOneStepApart(t *testing.T, net, row []int, node int) {
-	t.Helper()
 	nearer := row[node] <= 0
 	for other := range net {
 		if !inSet(net[node], other) {
