@@ -241,6 +241,139 @@ func wrongStates() map[string]kindedState {
 	return wrong
 }
 
+// firing is a state of so many kinds of the nodes of a net, which fires.
+type firing struct {
+	net   []int
+	kinds int
+	state []int
+}
+
+// everyFiring tells all states on all nets of one node to four, and on each net of more nodes a few of each number of kinds.
+func everyFiring() iter.Seq[firing] {
+	return func(yield func(firing) bool) {
+		for nodes := 1; nodes <= impl.MaxNodes; nodes++ {
+			for kinds := impl.LeastKinds; kinds <= impl.MaxKinds; kinds++ {
+				if !firingsOf(nodes, kinds, yield) {
+					return
+				}
+			}
+		}
+	}
+}
+
+func firingsOf(nodes, kinds int, yield func(firing) bool) bool {
+	all := power(kinds, nodes)
+	often := all
+	switch nodes {
+	case 5:
+		often = 24
+	case 6:
+		often = 1
+	}
+	number := 0
+	for net := range netsOf(nodes) {
+		for range often {
+			// 7919 is a prime, so that each state has its turn.
+			number = (number + 7919) % all
+			if !yield(firing{net, kinds, digitsOf(nodes, kinds, number)}) {
+				return false
+			}
+		}
+	}
+	return true
+}
+
+// digitsOf has so many digits of a number in a base, the least one first.
+func digitsOf(digits, base, number int) []int {
+	row := make([]int, digits)
+	for place := range row {
+		row[place] = number % base
+		number /= base
+	}
+	return row
+}
+
+// stepBy has the state behind a step, told node by node and pair by pair.
+func stepBy(f firing) []int {
+	after := make([]int, len(f.state))
+	for node, kind := range f.state {
+		switch {
+		case kind == f.kinds-1:
+			after[node] = 0
+		case kind > 0:
+			after[node] = kind + 1
+		case firesBeside(f, node):
+			after[node] = 1
+		}
+	}
+	return after
+}
+
+func firesBeside(f firing, node int) bool {
+	for other, kind := range f.state {
+		if kind == 1 && inSet(f.net[node], other) {
+			return true
+		}
+	}
+	return false
+}
+
+// historyBy has the states behind no steps, one, and so on up to so many.
+func historyBy(f firing, steps int) [][]int {
+	history := [][]int{slices.Clone(f.state)}
+	for range steps {
+		f.state = stepBy(f)
+		history = append(history, f.state)
+	}
+	return history
+}
+
+// loopBy has the steps before the loop, and those round it, by all states that were met.
+func loopBy(f firing) (int, int) {
+	met := map[[impl.MaxNodes]int]int{}
+	for step := 0; ; step++ {
+		var key [impl.MaxNodes]int
+		copy(key[:], f.state)
+		if before, again := met[key]; again {
+			return before, step - before
+		}
+		met[key] = step
+		f.state = stepBy(f)
+	}
+}
+
+// wrongFirings are none: the net is none, the kinds are none, the state is none, or it has fewer or more nodes than the net.
+func wrongFirings() map[string]firing {
+	wrong := map[string]firing{}
+	for what, net := range wrongNets() {
+		wrong[what+", at rest"] = firing{net, 3, make([]int, len(net))}
+		wrong[what+", lit"] = firing{net, 3, slices.Repeat([]int{1}, len(net))}
+		wrong[what+", of one node"] = firing{net, 3, []int{0}}
+		wrong[what+", of most nodes"] = firing{net, 5, make([]int, impl.MaxNodes)}
+		wrong[what+", of too many kinds"] = firing{net, impl.MaxKinds + 1, make([]int, len(net))}
+	}
+	for what, state := range wrongStates() {
+		nodes := min(max(len(state.state), 1), impl.MaxNodes)
+		wrong[what+", on nodes alone"] = firing{make([]int, nodes), state.kinds, state.state}
+		wrong[what+", on a path"] = firing{impl.PathNet(nodes), state.kinds, state.state}
+	}
+	for nodes := 1; nodes <= impl.MaxNodes; nodes++ {
+		for others := range impl.MaxNodes + 2 {
+			if others != nodes {
+				what := fmt.Sprintf("%d nodes, and a state of %d", nodes, others)
+				wrong[what+" at rest"] = firing{make([]int, nodes), 3, make([]int, others)}
+				wrong[what+" that are lit"] = firing{impl.PathNet(nodes), 5, slices.Repeat([]int{1}, others)}
+			}
+		}
+	}
+	return wrong
+}
+
+// wrongSteps are no numbers of steps of a run.
+func wrongSteps() []int {
+	return []int{-1, -2, -60, -1 << 32, math.MinInt, impl.MaxRun + 1, impl.MaxRun + 2, 1 << 32, 1<<32 + 1, math.MaxInt}
+}
+
 // wrongNodes are no numbers of nodes.
 func wrongNodes() []int {
 	return append(wrongNumbers(), 0, impl.MaxNodes+1, 63, 65)
