@@ -63,6 +63,24 @@ func ordersOf(numbers int) [][]int {
 	return orders
 }
 
+// orderDrawer draws orders of so many numbers, six at a time if there are as many.
+func orderDrawer() func(numbers int) [][]int {
+	orders := make([][][]int, impl.MaxNodes+1)
+	for numbers := range orders {
+		orders[numbers] = ordersOf(numbers)
+	}
+	place := 0
+	return func(numbers int) [][]int {
+		var drawn [][]int
+		for range min(len(orders[numbers]), 6) {
+			// 7 shares no divisor with the number of orders, so that each order has its turn.
+			place = (place + 7) % len(orders[numbers])
+			drawn = append(drawn, orders[numbers][place])
+		}
+		return drawn
+	}
+}
+
 // statesOf tells all states of so many nodes and kinds, found without the program.
 func statesOf(nodes, kinds int) iter.Seq[[]int] {
 	return func(yield func([]int) bool) {
@@ -320,26 +338,39 @@ func firesBeside(f firing, node int) bool {
 
 // historyBy has the states behind no steps, one, and so on up to so many.
 func historyBy(f firing, steps int) [][]int {
-	history := [][]int{slices.Clone(f.state)}
+	return historyFrom(f.state, steps, func(now []int) []int { return stepBy(firing{f.net, f.kinds, now}) })
+}
+
+func historyFrom(state []int, steps int, step func([]int) []int) [][]int {
+	history := [][]int{slices.Clone(state)}
 	for range steps {
-		f.state = stepBy(f)
-		history = append(history, f.state)
+		state = step(state)
+		history = append(history, state)
 	}
 	return history
 }
 
 // loopBy has the steps before the loop, and those round it, by all states that were met.
 func loopBy(f firing) (int, int) {
+	return loopFrom(f.state, func(now []int) []int { return stepBy(firing{f.net, f.kinds, now}) })
+}
+
+func loopFrom(state []int, step func([]int) []int) (int, int) {
 	met := map[[impl.MaxNodes]int]int{}
-	for step := 0; ; step++ {
-		var key [impl.MaxNodes]int
-		copy(key[:], f.state)
-		if before, again := met[key]; again {
-			return before, step - before
+	for steps := 0; ; steps++ {
+		if before, again := met[keyOf(state)]; again {
+			return before, steps - before
 		}
-		met[key] = step
-		f.state = stepBy(f)
+		met[keyOf(state)] = steps
+		state = step(state)
 	}
+}
+
+// keyOf tells rows of one length apart.
+func keyOf(row []int) [impl.MaxNodes]int {
+	var key [impl.MaxNodes]int
+	copy(key[:], row)
+	return key
 }
 
 // wrongFirings are none: the net is none, the kinds are none, the state is none, or it has fewer or more nodes than the net.
@@ -367,6 +398,123 @@ func wrongFirings() map[string]firing {
 		}
 	}
 	return wrong
+}
+
+// turning is a state of Wheel kinds of the nodes of a net, which turns.
+type turning struct{ net, state []int }
+
+// everyTurning tells all states on all nets of one node to five, all on one net of six nodes of each shape, and one on each net of six nodes.
+func everyTurning() iter.Seq[turning] {
+	return func(yield func(turning) bool) {
+		for nodes := 1; nodes < impl.MaxNodes; nodes++ {
+			if !turningsOn(netsOf(nodes), yield) {
+				return
+			}
+		}
+		if turningsOn(shapesOf(impl.MaxNodes), yield) {
+			firingsOf(impl.MaxNodes, impl.Wheel, func(f firing) bool { return yield(turning{f.net, f.state}) })
+		}
+	}
+}
+
+func turningsOn(nets iter.Seq[[]int], yield func(turning) bool) bool {
+	for net := range nets {
+		for state := range statesOf(len(net), impl.Wheel) {
+			if !yield(turning{net, state}) {
+				return false
+			}
+		}
+	}
+	return true
+}
+
+// shapesOf tells one net of so many nodes of each shape: all others are one of these with other names for the nodes.
+func shapesOf(nodes int) iter.Seq[[]int] {
+	return func(yield func([]int) bool) {
+		orders := ordersOf(nodes)
+		met := map[[impl.MaxNodes]int]bool{}
+		for net := range netsOf(nodes) {
+			if met[keyOf(net)] {
+				continue
+			}
+			for _, order := range orders {
+				met[keyOf(renamedBy(net, order))] = true
+			}
+			if !yield(net) {
+				return
+			}
+		}
+	}
+}
+
+// renamedBy has a net with other names for the nodes, told pair by pair.
+func renamedBy(net, order []int) []int {
+	named := make([]int, len(net))
+	for a := range net {
+		for b := range net {
+			if inSet(net[a], b) {
+				named[order[a]] += 1 << order[b]
+			}
+		}
+	}
+	return named
+}
+
+// turnBy has the state behind a turn, told pair by pair.
+func turnBy(w turning) []int {
+	next := []int{1, 2, 0}
+	after := slices.Clone(w.state)
+	for a, kind := range w.state {
+		for b, other := range w.state {
+			if inSet(w.net[a], b) && other == next[kind] {
+				after[a] = other
+			}
+		}
+	}
+	return after
+}
+
+// turnsBy has the states behind no turns, one, and so on up to so many.
+func turnsBy(w turning, turns int) [][]int {
+	return historyFrom(w.state, turns, func(now []int) []int { return turnBy(turning{w.net, now}) })
+}
+
+// turnLoopBy has the turns before the loop, and those round it, by all states that were met.
+func turnLoopBy(w turning) (int, int) {
+	return loopFrom(w.state, func(now []int) []int { return turnBy(turning{w.net, now}) })
+}
+
+// wrongTurnings are none: the net is none, the state is none of Wheel kinds, or it has fewer or more nodes than the net.
+func wrongTurnings() map[string]turning {
+	wrong := map[string]turning{}
+	for what, f := range wrongFirings() {
+		// What is no state of so many kinds is none of Wheel, for these are the fewest.
+		if f.kinds >= impl.LeastKinds && f.kinds <= impl.MaxKinds {
+			wrong[what] = turning{f.net, f.state}
+		}
+	}
+	for net := range everyWidth() {
+		for place := range net {
+			for _, kind := range wrongWheelKinds() {
+				state := slices.Repeat([]int{1}, len(net))
+				state[place] = kind
+				wrong[fmt.Sprintf("%d nodes, the kind %d at %d", len(net), kind, place)] = turning{net, state}
+			}
+		}
+	}
+	for nodes := 1; nodes <= 3; nodes++ {
+		for state := range statesOf(nodes, impl.MaxKinds) {
+			if slices.Max(state) >= impl.Wheel {
+				wrong[fmt.Sprint("of more kinds, ", state)] = turning{impl.PathNet(nodes), state}
+			}
+		}
+	}
+	return wrong
+}
+
+// wrongWheelKinds are no kinds of a wheel, though some of them are if they are taken in the round, or in 32 bits.
+func wrongWheelKinds() []int {
+	return []int{impl.Wheel, 4, 5, 6, -1, -2, -3, 1 << 32, 1<<32 + 1, math.MinInt, math.MaxInt}
 }
 
 // wrongSteps are no numbers of steps of a run.

@@ -27,17 +27,10 @@ func TestAStepOfEveryFiring(t *testing.T) {
 
 func TestRenamedNetsFireAsBefore(t *testing.T) {
 	t.Parallel()
-	orders := make([][][]int, impl.MaxNodes+1)
-	for nodes := range orders {
-		orders[nodes] = ordersOf(nodes)
-	}
-	place := 0
+	drawn := orderDrawer()
 	for f := range everyFiring() {
-		drawn := orders[len(f.net)]
-		for range min(len(drawn), 6) {
-			// 7 shares no divisor with the number of orders, so that each order has its turn.
-			place = (place + 7) % len(drawn)
-			wantRenamed(t, f, drawn[place])
+		for _, order := range drawn(len(f.net)) {
+			wantRenamed(t, f, order)
 		}
 	}
 }
