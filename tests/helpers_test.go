@@ -517,6 +517,102 @@ func wrongWheelKinds() []int {
 	return []int{impl.Wheel, 4, 5, 6, -1, -2, -3, 1 << 32, 1<<32 + 1, math.MinInt, math.MaxInt}
 }
 
+// wrongWheelStates are those of wrongTurnings that are none by themselves, on each net.
+func wrongWheelStates() map[string][]int {
+	wrong := map[string][]int{}
+	for what, w := range wrongTurnings() {
+		outside := slices.ContainsFunc(w.state, func(kind int) bool { return kind < 0 || kind > 2 })
+		if len(w.state) < 1 || len(w.state) > impl.MaxNodes || outside {
+			wrong[what] = w.state
+		}
+	}
+	return wrong
+}
+
+// riseBy has how much one climbs from a node to another one, told kind by kind.
+func riseBy(state []int, a, b int) int {
+	rises := [3][3]int{{0, 1, -1}, {-1, 0, 1}, {1, -1, 0}}
+	return rises[state[a]][state[b]]
+}
+
+// climbBy has what a tour climbs, from its last step to its first one.
+func climbBy(state, tour []int) int {
+	if len(tour) < 2 {
+		return 0
+	}
+	last := len(tour) - 1
+	return riseBy(state, tour[last-1], tour[last]) + climbBy(state, tour[:last])
+}
+
+// toursFrom tells all tours of a net from a node with so many nodes, those with lesser nodes first.
+func toursFrom(net []int, node, nodes int) iter.Seq[[]int] {
+	return func(yield func([]int) bool) {
+		goOn(net, []int{node}, nodes, yield)
+	}
+}
+
+func goOn(net, tour []int, nodes int, yield func([]int) bool) bool {
+	if len(tour) == nodes {
+		return yield(slices.Clone(tour))
+	}
+	for other := range net {
+		if inSet(net[tour[len(tour)-1]], other) && !goOn(net, append(slices.Clip(tour), other), nodes, yield) {
+			return false
+		}
+	}
+	return true
+}
+
+// drawnTour has a tour of so many nodes, drawn by a number, the node of which is the first one; of one node if that has no neighbours.
+func drawnTour(net []int, number, nodes int) []int {
+	tour := []int{number % len(net)}
+	for len(tour) < nodes {
+		var near []int
+		for other := range net {
+			if inSet(net[tour[len(tour)-1]], other) {
+				near = append(near, other)
+			}
+		}
+		if len(near) == 0 {
+			break
+		}
+		// The high digits of such numbers are as good as drawn.
+		number = (number*1103515245 + 12345) % (1 << 31)
+		tour = append(tour, near[number>>16%len(near)])
+	}
+	return tour
+}
+
+// wrongTours are none of a net.
+func wrongTours(net []int) map[string][]int {
+	wrong := map[string][]int{
+		"nil":                     nil,
+		"no nodes":                {},
+		"a node twice":            {0, 0},
+		"the last node twice":     {len(net) - 1, len(net) - 1},
+		"very many nodes":         slices.Repeat([]int{0, 1}, 500),
+		"one node, very often":    make([]int, 1000),
+		"one node, too often":     make([]int, impl.MaxTour+1),
+		"a node too many":         slices.Repeat([]int{0, 1}, impl.MaxTour)[:impl.MaxTour+1],
+		"a wrong node far beyond": append(slices.Repeat([]int{0, 1}, impl.MaxTour/2), -1),
+	}
+	for _, node := range append(wrongNumbers(), len(net), impl.MaxNodes, 63, 65) {
+		wrong[fmt.Sprint(node, " alone")] = []int{node}
+		wrong[fmt.Sprint(node, " twice")] = []int{node, node}
+		wrong[fmt.Sprint("to ", node)] = []int{0, node}
+		wrong[fmt.Sprint("from ", node)] = []int{node, 0}
+		wrong[fmt.Sprint("by way of ", node)] = []int{0, node, 0}
+	}
+	for a := range net {
+		for b := range net {
+			if !inSet(net[a], b) {
+				wrong[fmt.Sprint("no neighbours: ", a, b)] = []int{a, b}
+			}
+		}
+	}
+	return wrong
+}
+
 // wrongSteps are no numbers of steps of a run.
 func wrongSteps() []int {
 	return []int{-1, -2, -60, -1 << 32, math.MinInt, impl.MaxRun + 1, impl.MaxRun + 2, 1 << 32, 1<<32 + 1, math.MaxInt}
