@@ -583,6 +583,69 @@ func drawnTour(net []int, number, nodes int) []int {
 	return tour
 }
 
+// drawnRound has a tour of so many nodes, drawn by a number, with a shortest way back from its last node to the first one behind it.
+func drawnRound(net []int, number, nodes int) []int {
+	tour := drawnTour(net, number, nodes)
+	far, home := farTable(net), tour[0]
+	for last := tour[len(tour)-1]; last != home; last = tour[len(tour)-1] {
+		nearer := far[last][home] - 1
+		tour = append(tour, slices.IndexFunc(far, func(way []int) bool { return way[last] == 1 && way[home] == nearer }))
+	}
+	return tour
+}
+
+const noWay = -1 << 40
+
+// climbTable has the most that ways between all pairs of nodes climb, as farTable has the distances: by way of each node in turn, 0 for no step. If some tour that comes back climbs, there is a node from which to itself it is more than 0.
+func climbTable(w turning) [][]int {
+	table := make([][]int, len(w.net))
+	for a := range w.net {
+		table[a] = slices.Repeat([]int{noWay}, len(w.net))
+		for b := range w.net {
+			if inSet(w.net[a], b) {
+				table[a][b] = riseBy(w.state, a, b)
+			}
+		}
+		table[a][a] = 0
+	}
+	for by := range w.net {
+		for a := range w.net {
+			for b := range w.net {
+				if table[a][by] > noWay && table[by][b] > noWay {
+					table[a][b] = max(table[a][b], table[a][by]+table[by][b])
+				}
+			}
+		}
+	}
+	return table
+}
+
+// heightsBy has the heights by climbTable, and false if there are none.
+func heightsBy(w turning) ([]int, bool) {
+	table := climbTable(w)
+	row := make([]int, len(w.net))
+	for node, least := range partsBy(farTable(w.net)) {
+		if table[node][node] > 0 {
+			return nil, false
+		}
+		row[node] = table[least][node]
+	}
+	return row, true
+}
+
+// peaksBy has the greatest of the heights of the part of each node, by farTable.
+func peaksBy(far [][]int, heights []int) []int {
+	row := slices.Clone(heights)
+	for node := range row {
+		for other, height := range heights {
+			if far[node][other] >= 0 {
+				row[node] = max(row[node], height)
+			}
+		}
+	}
+	return row
+}
+
 // wrongTours are none of a net.
 func wrongTours(net []int) map[string][]int {
 	wrong := map[string][]int{
